@@ -896,7 +896,7 @@ func TestBestStepsAgainstAllYardsThatCanBeReached(t *testing.T) {
 }
 
 // The yards of the limits for which there is most to search; bestByLevels yields the same plans,
-// but takes minutes.
+// but takes about a minute.
 func TestBestStepsOfGreatYards(t *testing.T) {
 	for _, c := range []struct{ yard, order, want string }{
 		{
