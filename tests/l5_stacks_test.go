@@ -988,11 +988,7 @@ func TestResultsStayWhenTheYardChanges(t *testing.T) {
 
 // Each yard is made of the one before it, and none of them changes afterwards.
 func TestYardsStayWhenOthersAreMadeOfThem(t *testing.T) {
-	seed := 7
-	next := func(n int) int {
-		seed = (seed*1103 + 12345) % 65521
-		return seed % n
-	}
+	next := dice(7)
 	for stacks := 1; stacks <= 6; stacks++ {
 		y := packYard(fullYard(stacks), []int{0, 1, 2, 3, 4, 5}[:stacks], 0, 88).yard
 		history, texts := []impl.Yard{y}, []string{yardText(y)}

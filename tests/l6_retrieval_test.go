@@ -296,10 +296,11 @@ func ordersOf(y impl.Yard, most int) [][]int {
 	return all
 }
 
-// dice returns a function that yields numbers below its argument, the same ones each time.
+// dice returns a function that yields numbers below its argument, the same ones each time. They
+// only repeat after about 2 to the 31st of them, so that many different yards can be made.
 func dice(seed int) func(n int) int {
 	return func(n int) int {
-		seed = (seed*1103 + 12345) % 65521
+		seed = seed * 48271 % (1<<31 - 1)
 		return seed / 7 % n
 	}
 }
